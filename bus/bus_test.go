@@ -107,11 +107,20 @@ func (m *model) winner(own api.Frame, has bool) (int, api.Frame) {
 	return at, best
 }
 
-// idle brings nodes that are off nearer to being back.
-func (m *model) idle() {
+// off is for each node whether it is off.
+func (m *model) off() []bool {
+	var off []bool
+	for _, n := range m.nodes {
+		off = append(off, n.off)
+	}
+	return off
+}
+
+// idle brings the nodes that were off at the slot's beginning nearer to being back.
+func (m *model) idle(wasOff []bool) {
 	for i := range m.nodes {
 		n := &m.nodes[i]
-		if !n.off || i == 0 && !m.fixed {
+		if !wasOff[i] || i == 0 && !m.fixed {
 			continue
 		}
 		if n.idle++; n.idle < m.back {
@@ -124,11 +133,11 @@ func (m *model) idle() {
 	}
 }
 
-// missed and heard are what happens to all nodes that are not off, but this one.
-func (m *model) missed(but int) {
+// missed and heard are what happens to all nodes that were not off at the slot's beginning, but this one.
+func (m *model) missed(but int, wasOff []bool) {
 	for i := range m.nodes {
 		n := &m.nodes[i]
-		if i == but || n.off {
+		if i == but || wasOff[i] {
 			continue
 		}
 		if n.tec > 127 || n.rec > 127 {
@@ -140,11 +149,11 @@ func (m *model) missed(but int) {
 	}
 }
 
-func (m *model) heard(but int) {
+func (m *model) heard(but int, wasOff []bool) {
 	for i := range m.nodes {
 		n := &m.nodes[i]
 		switch {
-		case i == but || n.off || n.rec == 0:
+		case i == but || wasOff[i] || n.rec == 0:
 		case n.rec > 127:
 			n.rec = 119
 		default:
@@ -153,21 +162,23 @@ func (m *model) heard(but int) {
 	}
 }
 
+// slot is the next slot; who was off at its beginning comes nearer to being back behind all that happens in it.
 func (m *model) slot(own api.Frame, has, bad bool) Event {
 	at, f := m.winner(own, has)
-	m.idle()
+	wasOff := m.off()
+	defer m.idle(wasOff)
 	m.slots++
 	if at < 0 {
 		return Event{}
 	}
 	n := &m.nodes[at]
 	if bad {
-		m.missed(at)
+		m.missed(at, wasOff)
 		n.tec += 8
 		n.off = n.tec > 255
 		return Event{2, at, f}
 	}
-	m.heard(at)
+	m.heard(at, wasOff)
 	n.tec = max(n.tec-1, 0)
 	if at > 0 {
 		n.row = n.row[1:]
@@ -514,7 +525,7 @@ func TestSlotCounts(t *testing.T) {
 	}
 }
 
-// P12.3: who is off offers, misses and hears nothing; the slot in which it is back it does not offer in, but others' frames it misses or hears
+// P12.3: who is off at a slot's beginning offers, misses and hears nothing in it, in the one behind which it is back neither
 func TestSlotOff(t *testing.T) {
 	for _, isBad := range []bool{false, true} {
 		b := New(3, 3)
@@ -534,17 +545,120 @@ func TestSlotOff(t *testing.T) {
 			}
 		}
 		check(t, b.Slot(narrow(9), true, isBad), Event{kind, 0, narrow(9)})
-		want := api.Conf{}
-		if isBad {
-			want.Rec = 8
-		}
-		if c := confOf(t, b, 1); c != want {
+		if c := confOf(t, b, 1); c != (api.Conf{}) {
 			t.Fatalf("bad %v: %+v", isBad, c)
 		}
 		if got := b.Waits(1); !slices.Equal(got, []api.Frame{narrow(1), narrow(2)}) {
 			t.Fatal(got)
 		}
 		check(t, b.Slot(narrow(9), true, false), Event{1, 1, narrow(1)})
+	}
+}
+
+// P12.3, P10.5: a node that comes back behind a slot has missed nothing in it, whoever failed there; in the next one it has
+func TestBackMissedNothing(t *testing.T) {
+	for _, back := range []int{math.MinInt, 0, 1, 2, 5, 128} {
+		// In the slots ahead of the last one nobody offers; the sender fails in the last one.
+		for _, sender := range []int{0, 2, 31} {
+			b := New(32, back)
+			offer(t, b, 1, narrow(0))
+			bad(b, false, 32)
+			for n := 1; n < max(back, 1); n++ {
+				check(t, b.Slot(api.Frame{}, false, true), Event{})
+			}
+			if sender > 0 {
+				offer(t, b, sender, narrow(1))
+			}
+			before := confOf(t, b, 3)
+			check(t, b.Slot(narrow(1), sender == 0, true), Event{2, sender, narrow(1)})
+			if c := confOf(t, b, 1); c != (api.Conf{}) {
+				t.Fatalf("back %d, sender %d: %+v", back, sender, c)
+			}
+			if c := confOf(t, b, sender); c.Tec != 8 {
+				t.Fatalf("back %d, sender %d: the sender is %+v", back, sender, c)
+			}
+			// Who was not off has missed it.
+			if c := confOf(t, b, 3); c.Rec != min(before.Rec+1, 135) {
+				t.Fatalf("back %d, sender %d: another was %+v, is %+v", back, sender, before, c)
+			}
+			check(t, b.Slot(narrow(1), true, true), Event{2, 1, narrow(0)})
+			if c := confOf(t, b, 1); c != (api.Conf{Tec: 8}) {
+				t.Fatalf("back %d, sender %d: %+v", back, sender, c)
+			}
+		}
+	}
+}
+
+// P12.3: such a node misses what fails from the next slot on
+func TestBackThenMisses(t *testing.T) {
+	for _, back := range []int{1, 2, 5} {
+		b := New(3, back)
+		offer(t, b, 1, narrow(1))
+		bad(b, false, 32)
+		// Our own node has failed in each slot that node 1 is off in.
+		bad(b, true, back)
+		if c := confOf(t, b, 1); c != (api.Conf{}) {
+			t.Fatalf("back %d: %+v", back, c)
+		}
+		bad(b, true, 1)
+		if c := confOf(t, b, 1); c != (api.Conf{Rec: 8}) {
+			t.Fatalf("back %d: %+v", back, c)
+		}
+		check(t, b.Slot(narrow(0), true, false), Event{1, 0, narrow(0)})
+		if c := confOf(t, b, 1); c != (api.Conf{Rec: 7}) {
+			t.Fatalf("back %d: %+v", back, c)
+		}
+	}
+}
+
+// P12.3, P12.4: our own node, once a Fix lets it be back, has missed nothing in the slots that it was off in
+func TestOwnBackMissedNothing(t *testing.T) {
+	for _, back := range []int{0, 1, 2, 5} {
+		b := New(2, back)
+		bad(b, true, 32)
+		offer(t, b, 1, narrow(5))
+		// Without a Fix it is no nearer to being back, and has missed nothing, either.
+		check(t, b.Slot(narrow(0), true, true), Event{2, 1, narrow(5)})
+		if c := confOf(t, b, 0); c != (api.Conf{Tec: 256, Off: true}) {
+			t.Fatalf("back %d: %+v", back, c)
+		}
+		b.Fix()
+		for n := 1; n <= max(back, 1); n++ {
+			check(t, b.Slot(narrow(0), true, true), Event{2, 1, narrow(5)})
+			want := api.Conf{Tec: 256, Off: true, Idle: n}
+			if n == max(back, 1) {
+				want = api.Conf{}
+			}
+			if c := confOf(t, b, 0); c != want {
+				t.Fatalf("back %d, slot %d: %+v", back, n, c)
+			}
+		}
+		check(t, b.Slot(api.Frame{}, false, true), Event{2, 1, narrow(5)})
+		if c := confOf(t, b, 0); c != (api.Conf{Rec: 8}) {
+			t.Fatalf("back %d: %+v", back, c)
+		}
+	}
+}
+
+// P12.3: the slot behind which one node is back may be the one that another gets off in: that one has no idle slot yet
+func TestBackWhileAnotherGetsOff(t *testing.T) {
+	b := New(3, 1)
+	offer(t, b, 1, narrow(1))
+	offer(t, b, 2, narrow(2))
+	// Our own node has failed as often as it may, and node 1 gets off ahead of it.
+	bad(b, true, 31)
+	for range 32 {
+		check(t, b.Slot(api.Frame{}, false, true), Event{2, 1, narrow(1)})
+	}
+	check(t, b.Slot(narrow(0), true, true), Event{2, 0, narrow(0)})
+	if c := confOf(t, b, 1); c != (api.Conf{}) {
+		t.Fatal(c)
+	}
+	if c := confOf(t, b, 0); !c.Off || c.Tec != 256 || c.Idle != 0 {
+		t.Fatal(c)
+	}
+	if c := confOf(t, b, 2); c != (api.Conf{Rec: 135}) {
+		t.Fatal(c)
 	}
 }
 
